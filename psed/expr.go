@@ -176,7 +176,7 @@ func (r *exprReader) count() (int, int) {
 
 // digit reads a digit that is not below the least.
 func (r *exprReader) digit(least int) int {
-	value := int(r.takeOneOf("0123456789") - '0')
+	value := int(r.takeOneOf(digits) - '0')
 	if value < least {
 		r.refuse()
 	}

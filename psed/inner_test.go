@@ -1,6 +1,7 @@
 package psed
 
 import (
+	"reflect"
 	"slices"
 	"testing"
 )
@@ -38,6 +39,46 @@ func TestCaughtHidesNoMistake(t *testing.T) {
 	}()
 	var none []int
 	caught(func() { none[0] = 1 })
+}
+
+// What is read of a script is what its words say.
+func TestScriptRead(t *testing.T) {
+	all := readScript("1,4071!{\n$b\n}\n:x\nt x\na  b \nq7\nQ\nw in\ny/ab/cd/")
+	want := []command{
+		{letter: '{', place: 7, addresses: []address{{line: 1}, {line: 4071}}, not: true, plain: "1,4071!{", target: 2},
+		{letter: 'b', place: 10, addresses: []address{{}}, plain: "$b", target: 10},
+		{letter: '}', place: 12, plain: "}"},
+		{letter: ':', place: 14, plain: ":x", label: "x"},
+		{letter: 't', place: 17, plain: "t x", label: "x", target: 3},
+		{letter: 'a', place: 21, plain: "a  b ", text: " b "},
+		{letter: 'q', place: 27, plain: "q7", status: 7},
+		{letter: 'Q', place: 30, plain: "Q"},
+		{letter: 'w', place: 32, plain: "w in", name: "in"},
+		{letter: 'y', place: 37, plain: "y/ab/cd/", from: "ab", to: "cd"},
+	}
+	if !reflect.DeepEqual(all, want) {
+		t.Errorf("read %+v, want %+v", all, want)
+	}
+	if x := readScript("/a*/p")[0].addresses[0].expr; !reflect.DeepEqual(x, readExpr("a*")) {
+		t.Errorf("read %+v between slashes", x)
+	}
+}
+
+func TestSubstitutionRead(t *testing.T) {
+	text := func(text string) piece { return piece{text, noGroup} }
+	c := readScript(`s/\(a\)*\//b&\1\&\n\\\/c/3gpw out`)[0]
+	want := &substitution{
+		expr:   readExpr(`\(a\)*\/`),
+		pieces: []piece{text("b"), {group: 0}, {group: 1}, text("&"), text("\n"), text("\\"), text("/"), text("c")},
+		first:  3, all: true, print: true,
+	}
+	if !reflect.DeepEqual(c.change, want) || c.name != "out" {
+		t.Errorf("read %+v to %q, want %+v", c.change, c.name, want)
+	}
+	c = readScript("s///")[0]
+	if want = (&substitution{expr: readExpr(""), first: 1}); !reflect.DeepEqual(c.change, want) || c.name != "" {
+		t.Errorf("read %+v to %q, want %+v", c.change, c.name, want)
+	}
 }
 
 func TestPlaceSet(t *testing.T) {

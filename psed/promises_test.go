@@ -75,10 +75,54 @@ func soup(r *rand.Rand, most int) string {
 	return text[:min(len(text), most)]
 }
 
-func TestP1OtherCalls(t *testing.T) {
+// answersScript asks Check and Print and holds what they answer against what P1
+// says of every answer.
+func answersScript(t *testing.T, script string) {
+	t.Helper()
+	e, place := psed.Check(script)
+	text, again, samePlace := psed.Print(script)
+	switch {
+	case e != psed.OK && e != psed.ErrLong && e != psed.ErrScript && e != psed.ErrLabel,
+		(e == psed.OK || e == psed.ErrLong) && place != 0,
+		place < 0 || place > len(script),
+		again != e || samePlace != place,
+		e != psed.OK && text != "":
+		t.Errorf("Check(%.80q) = %d, %d, Print: %.80q, %d, %d", script, e, place, text, again, samePlace)
+	}
+}
+
+func TestP1Scripts(t *testing.T) {
+	for _, script := range []string{
+		"\x00\xff", strings.Repeat("{", 1000), strings.Repeat("{\n", 500), strings.Repeat("/", 1000), "s/" + strings.Repeat(`\(`, 499), "y/" + strings.Repeat("\n", 998),
+		strings.Repeat("1,", 500), strings.Repeat("!", 1000), strings.Repeat(":a\n", 333), strings.Repeat("\n", 100000), strings.Repeat("p", 100000),
+	} {
+		answersScript(t, script)
+	}
+	for a := range 256 {
+		for _, before := range []string{"", "1", "1,", "/", "s/", "s/a/", "s/a/\\", "s/a/b/", "y/", "y/a/", "a", "{\n", "b", "b ", ":", "q"} {
+			for _, behind := range []string{"", "/", " ", "\n}", "\xff"} {
+				answersScript(t, before+string([]byte{byte(a)})+behind)
+			}
+		}
+	}
+	r := rand.New(rand.NewSource(2))
+	for range 20000 {
+		answersScript(t, scriptSoup(r))
+	}
+}
+
+// scriptSoup is a text made of what scripts are made of, and of other bytes.
+func scriptSoup(r *rand.Rand) string {
+	words := []string{"1", "$", "/a/", "/", ",", " ", "!", "{\n", "}", "\n", "\n", "\n", ":a", "b a", "t", "p", "d", "a ", "s/a/b/", `s/\(a\)/\1/`, "g", "w a", "y/a/b/", "q1", `\`, "\x00", "\xff"}
+	text := ""
+	for range r.Intn(12) {
+		text += words[r.Intn(len(words))]
+	}
+	return text
+}
+
+func TestP1Runs(t *testing.T) {
 	for _, text := range []string{"", "p", "\x00\xff", "{", strings.Repeat("\n", 100000)} {
-		psed.Check(text)
-		psed.Print(text)
 		psed.Run(psed.Job{Script: text})
 		psed.Run(psed.Job{Script: text, Workers: -1, Buffer: math.MaxInt, Fuel: math.MinInt, Files: make([]psed.File, 100)})
 	}
@@ -126,4 +170,38 @@ func TestP2AtTheSameTime(t *testing.T) {
 		})
 	}
 	all.Wait()
+}
+
+func TestP2Scripts(t *testing.T) {
+	ask := func(script, want string, e psed.Errno, place int) {
+		if got, at := psed.Check(script); got != e || at != place {
+			t.Errorf("Check(%q) = %d, %d, want %d, %d", script, got, at, e, place)
+		}
+		if text, got, at := psed.Print(script); text != want || got != e || at != place {
+			t.Errorf("Print(%q) = %q, %d, %d, want %q, %d, %d", script, text, got, at, want, e, place)
+		}
+	}
+	var all sync.WaitGroup
+	for range 4 {
+		all.Go(func() {
+			for range 100 {
+				ask(" b a\n :a", "b a\n:a\n", psed.OK, 0)
+				ask("b a", "", psed.ErrLabel, 0)
+				ask(" {\n :b\n", "", psed.ErrScript, 7)
+				ask(":a\n :b", ":a\n:b\n", psed.OK, 0)
+				ask("}", "", psed.ErrScript, 0)
+				ask(` s/\(a\)/\1/`, "s/\\(a\\)/\\1/\n", psed.OK, 0)
+				ask(`s/a/\1/`, "", psed.ErrScript, 5)
+			}
+		})
+	}
+	all.Wait()
+}
+
+func TestErrnos(t *testing.T) {
+	want := []psed.Errno{0, 1, 2, 3, 4, 5}
+	got := []psed.Errno{psed.OK, psed.ErrLong, psed.ErrExpr, psed.ErrScript, psed.ErrLabel, psed.ErrRange}
+	if !slices.Equal(got, want) {
+		t.Errorf("the errors are %d, want %d", got, want)
+	}
 }

@@ -13,10 +13,13 @@ const (
 	ErrRange  Errno = 5 // a number out of its range
 )
 
-// The limits, in bytes.
+// The limits.
 const (
-	maxExpr = 60  // of an expression
-	maxLine = 200 // of a text that Match is given
+	maxScript = 1000 // bytes of a script
+	maxExpr   = 60   // bytes of an expression
+	maxCmds   = 60   // commands of a script
+	maxNest   = 6    // blocks within blocks
+	maxLine   = 200  // bytes of a text that Match is given
 )
 
 // File is a file to be edited; Bad: it cannot be read.
@@ -61,10 +64,28 @@ func Match(expr string, text string, at int) ([]int, Errno, int) {
 }
 
 // Check tells whether a text is a script (P4).
-func Check(script string) (Errno, int) { return OK, 0 }
+func Check(script string) (Errno, int) {
+	_, given := commandsOf(script)
+	return given.errno, given.place
+}
 
 // Print writes a script in its plain form (P5).
-func Print(script string) (string, Errno, int) { return "", OK, 0 }
+func Print(script string) (string, Errno, int) {
+	commands, given := commandsOf(script)
+	if given.errno != OK {
+		return "", given.errno, given.place
+	}
+	return plainScript(commands), OK, 0
+}
+
+// commandsOf reads a script, or answers why it cannot be read.
+func commandsOf(script string) (commands []command, given fault) {
+	if len(script) > maxScript {
+		return nil, fault{ErrLong, 0}
+	}
+	given = caught(func() { commands = readScript(script) })
+	return commands, given
+}
 
 // Run edits the files (P6 to P12).
 func Run(job Job) (Result, Errno, int) { return Result{}, OK, 0 }
