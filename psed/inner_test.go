@@ -38,7 +38,7 @@ func TestCaughtHidesNoMistake(t *testing.T) {
 		}
 	}()
 	var none []int
-	caught(func() { none[0] = 1 })
+	caught[fault](func() { none[0] = 1 })
 }
 
 // What is read of a script is what its words say.

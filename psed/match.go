@@ -31,6 +31,20 @@ func (m *matcher) from(text string, at int) []int {
 	return nil
 }
 
+// all goes through the matches in a text. Each but the first is not ahead of
+// the end of the one before, and, if it is empty, not at that end.
+func (m *matcher) all(text string) iter.Seq[[]int] {
+	return func(yield func([]int) bool) {
+		spans := m.from(text, 0)
+		for spans != nil && yield(spans) {
+			end := spans[1]
+			if spans = m.best(end); spans == nil || spans[1] == end {
+				spans = m.from(text, end+1)
+			}
+		}
+	}
+}
+
 // turnTo forgets what is known, if that is of another text.
 func (m *matcher) turnTo(text string) {
 	if text != m.text {

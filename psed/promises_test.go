@@ -3,6 +3,7 @@ package psed_test
 import (
 	"math"
 	"math/rand"
+	"reflect"
 	"slices"
 	"strings"
 	"sync"
@@ -121,11 +122,68 @@ func scriptSoup(r *rand.Rand) string {
 	return text
 }
 
+// answersRun asks Run and holds what it answers against what P1 and P11 say of
+// every answer.
+func answersRun(t *testing.T, job psed.Job) psed.Result {
+	t.Helper()
+	got, e, place := psed.Run(job)
+	want, at := psed.Check(job.Script)
+	switch {
+	case want != psed.OK && (e != want || place != at),
+		e != psed.OK && !reflect.DeepEqual(got, psed.Result{}),
+		(e == psed.OK || e == psed.ErrRange) && place != 0,
+		e == psed.ErrLong && (place < 0 || place > 12),
+		got.Status < 0 || got.Status > 9,
+		!slices.IsSortedFunc(got.Wrote, func(a, b psed.Written) int { return strings.Compare(a.Name, b.Name) }):
+		t.Errorf("Run(%s) = %s, %d, %d", shown(job), shown(got), e, place)
+	}
+	return got
+}
+
 func TestP1Runs(t *testing.T) {
 	for _, text := range []string{"", "p", "\x00\xff", "{", strings.Repeat("\n", 100000)} {
-		psed.Run(psed.Job{Script: text})
-		psed.Run(psed.Job{Script: text, Workers: -1, Buffer: math.MaxInt, Fuel: math.MinInt, Files: make([]psed.File, 100)})
+		answersRun(t, psed.Job{Script: text})
+		answersRun(t, psed.Job{Script: text, Workers: 1, Buffer: 1})
+		answersRun(t, psed.Job{Script: text, Workers: -1, Buffer: math.MaxInt, Fuel: math.MinInt, Files: make([]psed.File, 100)})
+		answersRun(t, psed.Job{Script: text, Workers: 1, Buffer: 1, Fuel: 5000, Files: []psed.File{{Name: "\x00\n", Data: "\x00\xff\n\n"}, {Bad: true, Data: "a"}, {}}})
 	}
+	r := rand.New(rand.NewSource(3))
+	for range 5000 {
+		answersRun(t, someJob(r))
+	}
+}
+
+// The expressions of a script may be matched in very many ways, too, and in
+// longer texts.
+func TestP1RunsEnd(t *testing.T) {
+	for _, expr := range manyWays() {
+		if len(expr) > 60 {
+			t.Fatalf("%q is too long", expr)
+		}
+		job := jobOf("/"+expr+"/s/"+expr+"/x&/g\ns/"+expr+"/x/w o\ny/ab/ba/", as(280)+"\n"+as(1000))
+		answersRun(t, job)
+	}
+}
+
+// someJob is a job that may be wrong, and whose script may be one that does not
+// end of itself.
+func someJob(r *rand.Rand) psed.Job {
+	job := psed.Job{Script: someScript(r), Quiet: r.Intn(2) == 0, Workers: 1 + r.Intn(16), Buffer: 1 + r.Intn(64), Fuel: r.Intn(200)}
+	for range r.Intn(4) {
+		f := psed.File{Name: soup(r, 30), Data: strings.Repeat(soup(r, 40)+"\n", r.Intn(4)) + soup(r, 3), Bad: r.Intn(5) == 0}
+		job.Files = append(job.Files, f)
+	}
+	switch r.Intn(20) {
+	case 0:
+		job.Script = scriptSoup(r)
+	case 1:
+		job.Workers, job.Buffer, job.Fuel = r.Intn(20)-2, r.Intn(70)-2, r.Intn(5010)-5
+	case 2:
+		job.Files = make([]psed.File, r.Intn(14))
+	case 3:
+		job.Files = append(job.Files, psed.File{Data: strings.Repeat("a", r.Intn(1600))})
+	}
+	return job
 }
 
 func TestP2OnArgumentsAlone(t *testing.T) {
@@ -196,6 +254,84 @@ func TestP2Scripts(t *testing.T) {
 		})
 	}
 	all.Wait()
+}
+
+// copyOf is a job that shares nothing with the one given.
+func copyOf(job psed.Job) psed.Job {
+	job.Files = slices.Clone(job.Files)
+	return job
+}
+
+// copyOfResult is a result that shares nothing with the one given.
+func copyOfResult(r psed.Result) psed.Result {
+	r.Wrote, r.Told = slices.Clone(r.Wrote), slices.Clone(r.Told)
+	return r
+}
+
+// A job is left as it is; asked again, Run answers the same, and nothing that is
+// asked later, and nothing that is done to the job or to another answer, changes
+// what was answered.
+func TestP2Runs(t *testing.T) {
+	r := rand.New(rand.NewSource(6))
+	for range 1000 {
+		job, other := someJob(r), someJob(r)
+		before := copyOf(job)
+		first, e, place := psed.Run(job)
+		want := copyOfResult(first)
+		psed.Run(other)
+		second, again, same := psed.Run(job)
+		if !reflect.DeepEqual(job, before) {
+			t.Errorf("Run changed %s to %s", shown(before), shown(job))
+		}
+		if !reflect.DeepEqual(first, want) || !reflect.DeepEqual(second, want) || e != again || place != same {
+			t.Errorf("Run(%s) = %s, %d, %d, and then %s, %d, %d", shown(job), shown(first), e, place, shown(second), again, same)
+		}
+		for i := range second.Wrote {
+			second.Wrote[i] = psed.Written{Name: "x", Data: "y"}
+		}
+		for i := range second.Told {
+			second.Told[i] = "x"
+		}
+		for i := range job.Files {
+			job.Files[i] = psed.File{Name: "x", Data: "y", Bad: true}
+		}
+		if third, _, _ := psed.Run(before); !reflect.DeepEqual(first, want) || !reflect.DeepEqual(third, want) {
+			t.Errorf("Run(%s) = %s, and then %s, want %s", shown(before), shown(first), shown(third), shown(want))
+		}
+	}
+}
+
+func TestP2RunsAtTheSameTime(t *testing.T) {
+	r := rand.New(rand.NewSource(7))
+	jobs := make([]psed.Job, 50)
+	wants := make([]psed.Result, len(jobs))
+	for i := range jobs {
+		jobs[i] = someJob(r)
+		wants[i], _, _ = psed.Run(jobs[i])
+	}
+	var all sync.WaitGroup
+	for range 8 {
+		all.Go(func() {
+			for i, job := range jobs {
+				if got, _, _ := psed.Run(job); !reflect.DeepEqual(got, wants[i]) {
+					t.Errorf("Run(%s) = %s, beside others, want %s", shown(job), shown(got), shown(wants[i]))
+				}
+			}
+		})
+	}
+	all.Wait()
+}
+
+// Run does the same with what Print writes, and with any Workers and Buffer.
+func TestP5Runs(t *testing.T) {
+	r := rand.New(rand.NewSource(8))
+	for range 2000 {
+		job := someJob(r)
+		job.Workers, job.Buffer = 1+r.Intn(16), 1+r.Intn(64)
+		if want, e, _ := psed.Run(job); e == psed.OK {
+			checkRun(t, job, want)
+		}
+	}
 }
 
 func TestErrnos(t *testing.T) {

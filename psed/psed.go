@@ -15,11 +15,18 @@ const (
 
 // The limits.
 const (
-	maxScript = 1000 // bytes of a script
-	maxExpr   = 60   // bytes of an expression
-	maxCmds   = 60   // commands of a script
-	maxNest   = 6    // blocks within blocks
-	maxLine   = 200  // bytes of a text that Match is given
+	maxScript  = 1000 // bytes of a script
+	maxExpr    = 60   // bytes of an expression
+	maxCmds    = 60   // commands of a script
+	maxNest    = 6    // blocks within blocks
+	maxLine    = 200  // bytes of a text that Match is given
+	maxFiles   = 12
+	maxData    = 1500 // bytes of a file
+	maxName    = 20   // bytes of a file's name
+	maxWorkers = 16
+	maxBuffer  = 64
+	maxFuel    = 5000
+	maxSpace   = 300 // bytes of the pattern, and of what is held
 )
 
 // File is a file to be edited; Bad: it cannot be read.
@@ -54,7 +61,7 @@ func Match(expr string, text string, at int) ([]int, Errno, int) {
 		return nil, ErrLong, 0
 	}
 	var x *expression
-	if given := caught(func() { x = readExpr(expr) }); given.errno != OK {
+	if given := caught[fault](func() { x = readExpr(expr) }); given.errno != OK {
 		return nil, given.errno, given.place
 	}
 	if at < 0 || at > len(text) {
@@ -83,9 +90,24 @@ func commandsOf(script string) (commands []command, given fault) {
 	if len(script) > maxScript {
 		return nil, fault{ErrLong, 0}
 	}
-	given = caught(func() { commands = readScript(script) })
+	given = caught[fault](func() { commands = readScript(script) })
 	return commands, given
 }
 
 // Run edits the files (P6 to P12).
-func Run(job Job) (Result, Errno, int) { return Result{}, OK, 0 }
+func Run(job Job) (Result, Errno, int) {
+	commands, given := commandsOf(job.Script)
+	if given.errno == OK {
+		given = overLimit(job)
+	}
+	if given.errno != OK {
+		return Result{}, given.errno, given.place
+	}
+	r := newRun(job, commands)
+	for _, f := range job.Files {
+		if !r.edit(f) {
+			break
+		}
+	}
+	return r.result(), OK, 0
+}
