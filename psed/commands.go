@@ -100,11 +100,11 @@ func (e *editor) swap(*task) {
 
 func (e *editor) next(*task) {
 	e.finish()
-	if !e.hasNext() {
-		e.end = endsFile
-		return
+	if e.hasNext() {
+		e.pattern = e.read()
+	} else {
+		e.end = endsCycle // and the file, which has no line for another one
 	}
-	e.pattern = e.read()
 }
 
 func (e *editor) nextBehind(t *task) {

@@ -2,11 +2,10 @@ package psed
 
 import "strings"
 
-// How much a command ends, each with what stands ahead of it.
+// How much a command ends.
 const (
 	endsNothing = iota
 	endsCycle
-	endsFile
 	endsRun
 )
 
@@ -69,7 +68,7 @@ func linesOf(data string) []string {
 // edit makes one cycle behind the other, and gives up if fuel is spent or room
 // is short.
 func (e *editor) edit() {
-	for e.end < endsFile && (e.again || e.hasNext()) {
+	for e.end != endsRun && (e.again || e.hasNext()) {
 		e.cycle()
 	}
 }
@@ -164,7 +163,7 @@ func (e *editor) isOfLines(t *task) bool {
 func (e *editor) isAt(t *task, which int) bool {
 	switch a := t.addresses[which]; {
 	case a.expr != nil:
-		return t.asked[which].from(e.pattern, 0) != nil
+		return t.asked[which].isIn(e.pattern)
 	case a.line > 0:
 		return a.line == e.number
 	default:

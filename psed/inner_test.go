@@ -81,22 +81,52 @@ func TestSubstitutionRead(t *testing.T) {
 	}
 }
 
+func placesOf(length int, places ...int) placeSet {
+	set := noPlaces(length)
+	for _, place := range places {
+		set.add(place)
+	}
+	return set
+}
+
+// listed is a set's places, one behind the other.
+func listed(s placeSet) []int {
+	var all []int
+	for place := s.firstFrom(0); place >= 0; place = s.firstFrom(place + 1) {
+		all = append(all, place)
+	}
+	return all
+}
+
 func TestPlaceSet(t *testing.T) {
-	var s placeSet
-	if s.last() != -1 || s.has(0) || s.has(1000) {
-		t.Errorf("an empty set has places")
+	a, b := placesOf(200, 0, 1, 63, 64, 127, 128, 199), placesOf(200, 1, 2, 64, 200)
+	for _, c := range []struct {
+		got  placeSet
+		want []int
+	}{
+		{noPlaces(200), nil}, {onePlace(0, 0), []int{0}}, {onePlace(128, 128), []int{128}}, {a, []int{0, 1, 63, 64, 127, 128, 199}},
+		{a.with(b), []int{0, 1, 2, 63, 64, 127, 128, 199, 200}}, {a.among(b), []int{1, 64}}, {a.without(b), []int{0, 63, 127, 128, 199}},
+		{a.later(), []int{1, 2, 64, 65, 128, 129, 200}}, {a.earlier(), []int{0, 62, 63, 126, 127, 198}}, {b.earlier().later(), []int{1, 2, 64, 200}},
+		{a, []int{0, 1, 63, 64, 127, 128, 199}}, {b, []int{1, 2, 64, 200}},
+	} {
+		if got := listed(c.got); !slices.Equal(got, c.want) {
+			t.Errorf("places %v, want %v", got, c.want)
+		}
 	}
-	want := []int{200, 128, 127, 64, 63, 1, 0}
-	for _, place := range want {
-		s.add(place)
+	for place, last := range map[int]int{0: 0, 5: 5, 63: 63, 64: 64, 199: 199} {
+		if got := onePlace(place, 200).last(); got != last || a.with(onePlace(200, 200)).last() != 200 {
+			t.Errorf("the last of %d is %d", place, got)
+		}
 	}
-	if got := slices.Collect(s.lastFirst()); !slices.Equal(got, want) || s.last() != 200 {
-		t.Errorf("places %v, want %v", got, want)
+	if !noPlaces(70).isEmpty() || noPlaces(70).last() != -1 || a.isEmpty() || onePlace(64, 64).isEmpty() || a.firstFrom(200) != -1 || a.firstFrom(300) != -1 || a.firstFrom(65) != 127 {
+		t.Errorf("an empty set is not told from others")
 	}
-	var other placeSet
-	other.addAll(s)
-	other.add(2)
-	if s.has(2) || !other.has(200) || !other.has(2) || other.has(3) {
-		t.Errorf("sets %v and %v", s, other)
+}
+
+func TestAllPlaces(t *testing.T) {
+	for _, length := range []int{0, 1, 62, 63, 64, 65, 127, 128, 200, 1500} {
+		if got := listed(allPlaces(length)); len(got) != length+1 || got[length] != length {
+			t.Errorf("of a text of %d bytes: %v", length, got)
+		}
 	}
 }

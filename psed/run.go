@@ -67,7 +67,7 @@ func (r *run) edit(f File) bool {
 		return false
 	}
 	r.said = e.status
-	return e.end < endsRun
+	return e.end != endsRun
 }
 
 // put lays a text behind what a name has already.

@@ -1,8 +1,9 @@
 package psed
 
 import (
-	"iter"
+	"math"
 	"math/bits"
+	"slices"
 )
 
 // byteSet is a set of bytes, a bit for each.
@@ -39,57 +40,109 @@ func (s byteSet) others() byteSet {
 	return s
 }
 
-// placeSet is a set of places in a text, a bit for each; the zero value is
-// empty. It is shared once it has been handed on, and not changed any more.
-type placeSet struct {
-	words []uint64
+// placeSet is a set of places in a text, its end too: a bit for each. Sets of one
+// text have as many words. It is not changed any more once it has been handed
+// on.
+type placeSet []uint64
+
+func noPlaces(length int) placeSet {
+	return make(placeSet, length/64+1)
 }
 
-func (s placeSet) has(place int) bool {
-	i := place / 64
-	return i < len(s.words) && s.words[i]>>(place%64)&1 == 1
+func onePlace(place, length int) placeSet {
+	set := noPlaces(length)
+	set.add(place)
+	return set
 }
 
-func (s *placeSet) add(place int) {
-	s.grow(place/64 + 1)
-	s.words[place/64] |= 1 << (place % 64)
-}
-
-func (s *placeSet) addAll(other placeSet) {
-	s.grow(len(other.words))
-	for i, word := range other.words {
-		s.words[i] |= word
+// allPlaces is the set of all places in a text of that length.
+func allPlaces(length int) placeSet {
+	set := noPlaces(length)
+	for i := range set {
+		set[i] = math.MaxUint64
 	}
+	set[length/64] >>= 63 - length%64
+	return set
 }
 
-func (s *placeSet) grow(size int) {
-	if size > len(s.words) {
-		words := make([]uint64, size)
-		copy(words, s.words)
-		s.words = words
+func (s placeSet) add(place int) {
+	s[place/64] |= 1 << (place % 64)
+}
+
+// among answers those places that are in the other set too.
+func (s placeSet) among(other placeSet) placeSet {
+	both := slices.Clone(s)
+	for i, word := range other {
+		both[i] &= word
 	}
+	return both
+}
+
+// with answers the places of both sets.
+func (s placeSet) with(other placeSet) placeSet {
+	all := slices.Clone(s)
+	for i, word := range other {
+		all[i] |= word
+	}
+	return all
+}
+
+// without answers those places that are not in the other set.
+func (s placeSet) without(other placeSet) placeSet {
+	rest := slices.Clone(s)
+	for i, word := range other {
+		rest[i] &^= word
+	}
+	return rest
+}
+
+// later answers the places right behind these.
+func (s placeSet) later() placeSet {
+	moved := slices.Clone(s)
+	var carry uint64
+	for i, word := range s {
+		moved[i] = word<<1 | carry
+		carry = word >> 63
+	}
+	return moved
+}
+
+// earlier answers the places right ahead of these.
+func (s placeSet) earlier() placeSet {
+	moved := slices.Clone(s)
+	var carry uint64
+	for i := len(s) - 1; i >= 0; i-- {
+		moved[i] = s[i]>>1 | carry
+		carry = s[i] << 63
+	}
+	return moved
+}
+
+func (s placeSet) isEmpty() bool {
+	return s.last() < 0
 }
 
 // last answers the greatest place, -1 if there is none.
 func (s placeSet) last() int {
-	for place := range s.lastFirst() {
-		return place
+	for i := len(s) - 1; i >= 0; i-- {
+		if s[i] != 0 {
+			return i*64 + bits.Len64(s[i]) - 1
+		}
 	}
 	return -1
 }
 
-// lastFirst goes through the places, the greatest first: what is looked for is
-// always the longest that will do.
-func (s placeSet) lastFirst() iter.Seq[int] {
-	return func(yield func(int) bool) {
-		for i := len(s.words) - 1; i >= 0; i-- {
-			for word := s.words[i]; word != 0; {
-				top := bits.Len64(word) - 1
-				if !yield(i*64 + top) {
-					return
-				}
-				word &^= 1 << top
-			}
+// firstFrom answers the lowest place that is not ahead of at, -1 if there is
+// none.
+func (s placeSet) firstFrom(at int) int {
+	for i := at / 64; i < len(s); i++ {
+		word := s[i]
+		if i == at/64 {
+			word &^= 1<<(at%64) - 1
+		}
+		if word != 0 {
+			return i*64 + bits.TrailingZeros64(word)
 		}
 	}
+	return -1
 }
