@@ -11,10 +11,10 @@ const (
 
 // editor edits a file.
 type editor struct {
+	outlet
 	tasks   []task
 	quiet   bool
 	fuel    int
-	put     func(name, text string)
 	lines   []string
 	number  int // of the lines that have been read
 	pattern string
@@ -36,8 +36,8 @@ type task struct {
 	begun  int        // the line at which the range began; 0, if none is begun
 }
 
-func newEditor(job Job, commands []command, data string) *editor {
-	e := &editor{quiet: job.Quiet, fuel: job.Fuel, lines: linesOf(data)}
+func newEditor(job Job, commands []command, p *passage) *editor {
+	e := &editor{outlet: p.outlet, quiet: job.Quiet, fuel: job.Fuel, lines: linesOf(p.Data)}
 	for i := range commands {
 		e.tasks = append(e.tasks, newTask(&commands[i]))
 	}
@@ -65,8 +65,8 @@ func linesOf(data string) []string {
 	return lines
 }
 
-// edit makes one cycle behind the other, and gives up if fuel is spent or room
-// is short.
+// edit makes one cycle behind the other, and gives up if fuel is spent, room is
+// short or the run is over.
 func (e *editor) edit() {
 	for e.end != endsRun && (e.again || e.hasNext()) {
 		e.cycle()
@@ -89,6 +89,9 @@ func (e *editor) cycle() {
 
 // comeTo makes a task, if the line belongs to it.
 func (e *editor) comeTo(t *task) {
+	if e.isOver() {
+		panic(runIsOver)
+	}
 	if e.fuel == 0 {
 		panic(outOfFuel)
 	}

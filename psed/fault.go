@@ -7,19 +7,20 @@ type fault struct {
 	place int
 }
 
-// shortage is what the editor of a file gives up with, by panic: the run tells
-// it beside the file's name.
-type shortage string
+// stop is what the editor of a file gives up with, by panic: the run tells it
+// beside the file's name, unless it is over.
+type stop string
 
 const (
-	outOfFuel shortage = "out of fuel"
-	outOfRoom shortage = "out of room"
+	outOfFuel stop = "out of fuel"
+	outOfRoom stop = "out of room"
+	runIsOver stop = "the run is over"
 )
 
 // caught does the work and answers that by which it gave up; the zero value, if
 // it came to its end. Another panic is a mistake of the program's own, and is
 // not hidden.
-func caught[F fault | shortage](work func()) (given F) {
+func caught[F fault | stop](work func()) (given F) {
 	defer func() {
 		switch thrown := recover().(type) {
 		case nil:

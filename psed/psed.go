@@ -103,11 +103,7 @@ func Run(job Job) (Result, Errno, int) {
 	if given.errno != OK {
 		return Result{}, given.errno, given.place
 	}
-	r := newRun(job, commands)
-	for _, f := range job.Files {
-		if !r.edit(f) {
-			break
-		}
-	}
-	return r.result(), OK, 0
+	all := newRecord(commands)
+	newRun(job, commands).edit(all)
+	return all.result(), OK, 0
 }

@@ -30,57 +30,55 @@ func within(number, least, most int) bool {
 	return least <= number && number <= most
 }
 
-// run gathers what the files of a job put out, in their order.
-type run struct {
-	job      Job
-	commands []command
-	names    []string // theOutput, and the names that the script writes to, rising
-	texts    []strings.Builder
-	told     []string
-	said     int // the status of a q or Q
-	unread   bool
-	short    bool
+// record gathers what the files of a job put out, in their order.
+type record struct {
+	names  []string // theOutput, and the names that the script writes to, rising
+	texts  []strings.Builder
+	told   []string
+	said   int // the status of a q or Q
+	unread bool
+	short  bool
 }
 
-func newRun(job Job, commands []command) *run {
+func newRecord(commands []command) *record {
 	names := []string{theOutput}
 	for _, c := range commands {
 		names = append(names, c.name)
 	}
 	slices.Sort(names)
 	names = slices.Compact(names)
-	return &run{job: job, commands: commands, names: names, texts: make([]strings.Builder, len(names))}
+	return &record{names: names, texts: make([]strings.Builder, len(names))}
 }
 
-// edit has a file edited and tells whether the run goes on behind it.
-func (r *run) edit(f File) bool {
-	if f.Bad {
-		r.tell(f, "cannot be read")
+// take gathers what a file puts out, up to its end, and tells whether the run
+// goes on behind it.
+func (r *record) take(p *passage) bool {
+	for piece := range p.pieces {
+		r.lay(piece)
+	}
+	switch {
+	case p.Bad:
+		r.tell(p.Name, "cannot be read")
 		r.unread = true
-		return true
-	}
-	e := newEditor(r.job, r.commands, f.Data)
-	e.put = r.put
-	if why := caught[shortage](e.edit); why != "" {
-		r.tell(f, string(why))
+	case p.why != "":
+		r.tell(p.Name, string(p.why))
 		r.short = true
-		return false
 	}
-	r.said = e.status
-	return e.end != endsRun
+	r.said = p.status
+	return !p.endsRun
 }
 
-// put lays a text behind what a name has already.
-func (r *run) put(name, text string) {
-	i, _ := slices.BinarySearch(r.names, name)
-	r.texts[i].WriteString(text)
+// lay puts a piece behind what its name has already.
+func (r *record) lay(piece output) {
+	i, _ := slices.BinarySearch(r.names, piece.name)
+	r.texts[i].WriteString(piece.text)
 }
 
-func (r *run) tell(f File, what string) {
-	r.told = append(r.told, f.Name+": "+what)
+func (r *record) tell(name, what string) {
+	r.told = append(r.told, name+": "+what)
 }
 
-func (r *run) result() Result {
+func (r *record) result() Result {
 	all := Result{Out: r.texts[0].String(), Told: r.told, Status: r.status()}
 	for i, name := range r.names {
 		if name != theOutput {
@@ -90,7 +88,7 @@ func (r *run) result() Result {
 	return all
 }
 
-func (r *run) status() int {
+func (r *record) status() int {
 	switch {
 	case r.short:
 		return 4
